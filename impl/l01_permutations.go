@@ -116,9 +116,13 @@ func composed(p []Pair, q []Pair) []Pair {
 }
 
 func movedByEither(p []Pair, q []Pair) []int {
-	atoms := append(movedIn(p), movedIn(q)...)
-	slices.Sort(atoms)
-	return slices.Compact(atoms)
+	return ascending(append(movedIn(p), movedIn(q)...))
+}
+
+// ascending sorts the numbers in place, and leaves each of them in once.
+func ascending(l []int) []int {
+	slices.Sort(l)
+	return slices.Compact(l)
 }
 
 func movedIn(p []Pair) []int {
@@ -317,13 +321,18 @@ func readCycle(t string) ([]int, string, bool) {
 	return cycle, behind, true
 }
 
-// parseAtom reads an atom in decimal, without leading zeros or a sign.
 func parseAtom(t string) (int, bool) {
-	a, err := strconv.Atoi(t)
-	if err != nil || !isAtom(a) || strconv.Itoa(a) != t {
+	return parseNumber(t, MaxAtom)
+}
+
+// parseNumber reads a number from 0 to most in decimal, without leading zeros
+// or a sign.
+func parseNumber(t string, most int) (int, bool) {
+	n, err := strconv.Atoi(t)
+	if err != nil || n < 0 || n > most || strconv.Itoa(n) != t {
 		return 0, false
 	}
-	return a, true
+	return n, true
 }
 
 func GroupOf(generators [][]Pair) ([][]Pair, bool) {

@@ -115,3 +115,26 @@ func readAll(t *testing.T, texts ...string) [][]impl.Pair {
 func sameLists[T comparable](l, m [][]T) bool {
 	return slices.EqualFunc(l, m, func(x, y []T) bool { return slices.Equal(x, y) })
 }
+
+// toEachNear checks what comes of a text by leaving its end or a letter out, or
+// by putting one of the letters in.
+func toEachNear(text, letters string, check func(string)) {
+	for i := range text {
+		check(text[:i])
+		check(text[:i] + text[i+1:])
+		for _, c := range letters {
+			check(text[:i] + string(c) + text[i+1:])
+			check(text[:i] + string(c) + text[i:])
+		}
+	}
+}
+
+// toEachText checks what comes of a text by putting up to more letters behind.
+func toEachText(text, letters string, more int, check func(string)) {
+	check(text)
+	if more > 0 {
+		for _, c := range letters {
+			toEachText(text+string(c), letters, more-1, check)
+		}
+	}
+}

@@ -42,28 +42,11 @@ func TestReadBackFromWritten(t *testing.T) {
 
 // No other text is read: whatever is read is written as it was.
 func TestOnlyWrittenIsRead(t *testing.T) {
-	letters := "() 01239"
+	check := func(text string) { checkText(t, text) }
 	for _, p := range somePermutations(60) {
-		text := impl.FormatPermutation(p)
-		for i := range text {
-			checkText(t, text[:i])
-			checkText(t, text[:i]+text[i+1:])
-			for _, c := range letters {
-				checkText(t, text[:i]+string(c)+text[i+1:])
-				checkText(t, text[:i]+string(c)+text[i:])
-			}
-		}
+		toEachNear(impl.FormatPermutation(p), "() 01239", check)
 	}
-	checkAllTexts(t, "", 7)
-}
-
-func checkAllTexts(t *testing.T, text string, more int) {
-	checkText(t, text)
-	if more > 0 {
-		for _, c := range "() 012" {
-			checkAllTexts(t, text+string(c), more-1)
-		}
-	}
+	toEachText("", "() 012", 7, check)
 }
 
 func checkText(t *testing.T, text string) {
