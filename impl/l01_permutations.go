@@ -133,6 +133,16 @@ func movedIn(p []Pair) []int {
 	return atoms
 }
 
+// sourceIn is the atom that becomes a when p is done.
+func sourceIn(p []Pair, a int) int {
+	for _, pair := range p {
+		if pair.To == a {
+			return pair.From
+		}
+	}
+	return a
+}
+
 func InversePermutation(p []Pair) ([]Pair, bool) {
 	if !IsPermutation(p) {
 		return []Pair{}, false
@@ -157,10 +167,14 @@ func MovedBy(p []Pair) []int {
 }
 
 func DifferenceOf(p []Pair, q []Pair) []int {
-	atoms := []int{}
 	if !IsPermutation(p) || !IsPermutation(q) {
-		return atoms
+		return []int{}
 	}
+	return differenceIn(p, q)
+}
+
+func differenceIn(p []Pair, q []Pair) []int {
+	atoms := []int{}
 	for _, a := range movedByEither(p, q) {
 		if imageIn(p, a) != imageIn(q, a) {
 			atoms = append(atoms, a)

@@ -172,16 +172,22 @@ func sizeOf(x impl.Term) int {
 // smallTerms are all ground terms with count nodes, of the atoms 0, 1 and 2 and
 // the symbols 0, 1 and 2.
 func smallTerms(count int) []impl.Term {
+	return smallFrom([]impl.Term{atom(0), atom(1), atom(2), node(0)}, count)
+}
+
+// smallFrom are all terms with count nodes, of the leaves, binders of the atoms
+// 0, 1 and 2, and the symbols 1 and 2.
+func smallFrom(leaves []impl.Term, count int) []impl.Term {
 	if count == 1 {
-		return []impl.Term{atom(0), atom(1), atom(2), node(0)}
+		return leaves
 	}
 	l := []impl.Term{}
-	for _, x := range smallTerms(count - 1) {
+	for _, x := range smallFrom(leaves, count-1) {
 		l = append(l, node(1, x), bind(0, x), bind(1, x), bind(2, x))
 	}
 	for first := 1; first < count-1; first++ {
-		for _, x := range smallTerms(first) {
-			for _, y := range smallTerms(count - 1 - first) {
+		for _, x := range smallFrom(leaves, first) {
+			for _, y := range smallFrom(leaves, count-1-first) {
 				l = append(l, node(2, x, y))
 			}
 		}
