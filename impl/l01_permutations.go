@@ -147,12 +147,17 @@ func InversePermutation(p []Pair) ([]Pair, bool) {
 	if !IsPermutation(p) {
 		return []Pair{}, false
 	}
+	return inverted(p), true
+}
+
+// inverted gives back what p gave. Both may move more than MaxMoved atoms.
+func inverted(p []Pair) []Pair {
 	r := []Pair{}
 	for _, pair := range p {
 		r = append(r, Pair{From: pair.To, To: pair.From})
 	}
 	slices.SortFunc(r, comparePairs)
-	return r, true
+	return r
 }
 
 func comparePairs(a Pair, b Pair) int {
